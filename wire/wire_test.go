@@ -28,7 +28,7 @@ type item struct {
 	s string
 }
 
-func aNum(v uint64) item { return item{k: num, n: v} }
+func aNum(v uint64) item  { return item{k: num, n: v} }
 func anInt(v int) item    { return item{k: whole, i: v} }
 func aText(v string) item { return item{k: text, s: v} }
 
